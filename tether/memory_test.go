@@ -1,0 +1,186 @@
+package tether_test
+
+import (
+	"bytes"
+	"slices"
+	"testing"
+
+	"tether/api"
+	"tether/tether"
+)
+
+// roomy gives the bytes of a text with room behind them that is all 0xEE.
+func roomy(text string) []byte {
+	b := bytes.Repeat([]byte{0xEE}, len(text)+80)
+	copy(b, text)
+	return b[:len(text)]
+}
+
+func checkRoom(t *testing.T, b []byte, want string) {
+	t.Helper()
+	if string(b) != want {
+		t.Errorf("P1: what was handed in is %q, was %q", b, want)
+	}
+	for i, x := range b[len(b):cap(b)] {
+		if x != 0xEE {
+			t.Errorf("P1: the room behind %q was written into, at %d", want, i)
+			return
+		}
+	}
+}
+
+func TestP1HandedInIsNotWrittenInto(t *testing.T) {
+	texts := []string{"hello", "~~", string(bytes.Repeat([]byte{0xFF}, api.MaxFrame))}
+	for _, text := range texts {
+		b := roomy(text)
+		tether.Sum(b)
+		checkRoom(t, b, text)
+		mustBits(t, b)
+		checkRoom(t, b, text)
+		mustBits(t, b, b)
+		checkRoom(t, b, text)
+		// With an error too.
+		tether.Bits(b, nil)
+		checkRoom(t, b, text)
+	}
+	// Frames that stand one behind the other in one piece of memory.
+	whole := roomy("abcdefgh")
+	if got, want := mustBits(t, whole[:3], whole[3:5], whole[5:]), mustBits(t, []byte("abc"), []byte("de"), []byte("fgh")); got != want {
+		t.Errorf("P1: Bits of frames side by side = %s, want %s", got, want)
+	}
+	checkRoom(t, whole, "abcdefgh")
+}
+
+func TestP1ListOfFramesIsNotWrittenInto(t *testing.T) {
+	behind := []byte("behind")
+	list := [][]byte{[]byte("ab"), []byte("cd"), behind, behind}
+	mustBits(t, list[:2]...)
+	for i, want := range []string{"ab", "cd", "behind", "behind"} {
+		if string(list[i]) != want {
+			t.Errorf("P1: frame %d of the list is %q, was %q", i, list[i], want)
+		}
+	}
+}
+
+func TestP1HandedInIsNotKept(t *testing.T) {
+	frame := []byte("hello")
+	list := [][]byte{frame, frame}
+	text := mustBits(t, list...)
+	kept := string([]byte(text))
+	clear(frame)
+	clear(list)
+	if text != kept {
+		t.Errorf("P1: the bits changed with the frame")
+	}
+	if again := mustBits(t, []byte("hello"), []byte("hello")); again != kept {
+		t.Errorf("P1: Bits = %s, was %s", again, kept)
+	}
+}
+
+// spoil writes into all that an answer has, its spare room too.
+func spoil(found []api.Found) {
+	for _, f := range found {
+		room := f.Bytes[:cap(f.Bytes)]
+		for i := range room {
+			room[i] = 9
+		}
+	}
+	room := found[:cap(found)]
+	for i := range room {
+		room[i] = api.Found{Kind: 9}
+	}
+}
+
+func TestP1FoundIsNewMemory(t *testing.T) {
+	bits := mustBits(t, []byte("hello"), []byte("hello"), []byte("ab"))
+	const want = "good[104 101 108 108 111] good[104 101 108 108 111] good[97 98]"
+	h, other := tether.NewHunter(), tether.NewHunter()
+	// A frame is under way while the answer is written into.
+	first, _ := h.Feed(bits + bits[len(flag):30])
+	second, _ := h.Feed(bits[30:])
+	third, _ := other.Feed(bits)
+	if tell(first) != want || tell(second) != want || tell(third) != want {
+		t.Fatalf("P4: Feed = %q, %q, %q, want %q each", tell(first), tell(second), tell(third), want)
+	}
+	feed(t, h, bits[len(flag):30], "")
+	spoil(first)
+	if tell(second) != want || tell(third) != want {
+		t.Errorf("P1: answers share memory: %q, %q, want %q each", tell(second), tell(third), want)
+	}
+	feed(t, h, bits[30:], want)
+}
+
+func TestP1FoundWithinOneAnswer(t *testing.T) {
+	bits := mustBits(t, []byte("hello"), []byte("world"), []byte("ab"))
+	found, _ := tether.NewHunter().Feed(bits)
+	for i := range found {
+		before := slices.Clone(found)
+		for j := range before {
+			before[j].Bytes = bytes.Clone(found[j].Bytes)
+		}
+		room := found[i].Bytes[:cap(found[i].Bytes)]
+		for k := range room {
+			room[k] ^= 0xFF
+		}
+		for j := range found {
+			if j != i && !bytes.Equal(found[j].Bytes, before[j].Bytes) {
+				t.Errorf("P1: frames %d and %d share memory", i, j)
+			}
+		}
+	}
+}
+
+func TestP1AnswersStayAsTheyAre(t *testing.T) {
+	h := tether.NewHunter()
+	first, _ := h.Feed(mustBits(t, []byte("hello"), []byte("ab")))
+	want := tell(first)
+	feed(t, h, mustBits(t, []byte("WORLD"), []byte("CD")), "good[87 79 82 76 68] good[67 68]")
+	if tell(first) != want {
+		t.Errorf("P1: a later call changed an answer: %q, was %q", tell(first), want)
+	}
+}
+
+func TestP1OnlyGoodFramesHaveBytes(t *testing.T) {
+	h := hunterOn(t)
+	for _, bits := range []string{"00" + flag, "00 1111111" + flag} {
+		found, _ := h.Feed(packed(bits))
+		if len(found) != 1 || found[0].Bytes != nil {
+			t.Errorf("P4: Feed(%s) = %v, want one without bytes", bits, found)
+		}
+	}
+}
+
+func TestP1HuntersAreApart(t *testing.T) {
+	one, other := tether.NewHunter(), tether.NewHunter()
+	if one == other {
+		t.Fatalf("P1: NewHunter gave one hunter twice")
+	}
+	ab, cd := mustBits(t, []byte("ab")), mustBits(t, []byte("cd"))
+	feed(t, one, ab[:25], "")
+	feed(t, other, "0"+flag, "")
+	feed(t, other, cd[:33], "")
+	feed(t, one, ab[25:], "good[97 98]")
+	feed(t, tether.NewHunter(), cd[33:], "")
+	feed(t, other, cd[33:], "good[99 100]")
+}
+
+func TestP1AllTextsAndBytes(t *testing.T) {
+	h := tether.NewHunter()
+	for x := range 1 << 16 {
+		b := []byte{byte(x), byte(x >> 8)}
+		if n := tether.Sum(b); n < 0 || n > 0xFFFF {
+			t.Fatalf("P2: Sum(%v) = %d", b, n)
+		}
+		bits := mustBits(t, b)
+		if found, e := h.Feed(bits); e != api.OK || len(found) != 1 || !bytes.Equal(found[0].Bytes, b) {
+			t.Fatalf("P4: Feed(%s) = %q, %d", bits, tell(found), e)
+		}
+		want := api.ErrArg
+		if b[0]|1 == '1' && b[1]|1 == '1' {
+			want = api.OK
+		}
+		if found, e := tether.NewHunter().Feed(string(b)); e != want || found != nil {
+			t.Fatalf("P4: Feed(%q) = %v, %d, want error %d", b, found, e, want)
+		}
+	}
+}
