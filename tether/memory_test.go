@@ -184,3 +184,85 @@ func TestP1AllTextsAndBytes(t *testing.T) {
 		}
 	}
 }
+
+// spoilBytes writes into bytes and their spare room.
+func spoilBytes(b []byte) {
+	room := b[:cap(b)]
+	for i := range room {
+		room[i] = 0xAA
+	}
+}
+
+func TestP1InfosAndFramesAreNotWrittenInto(t *testing.T) {
+	for _, modulo := range modulos {
+		for _, kind := range kinds {
+			for _, text := range []string{"", "a", "abc", "abcde", string(bytes.Repeat([]byte("x"), 32)), string(bytes.Repeat([]byte("x"), 33))} {
+				for _, address := range []int{1, 2} {
+					info := roomy(text)
+					frame := api.Frame{Address: address, Kind: kind, Info: info}
+					tether.Write(modulo, frame)
+					checkRoom(t, info, text)
+				}
+			}
+		}
+		for _, text := range []string{"", "\x01", "\x01\x00", "\x01\x00\x00", "\x01\x00\x00abc", "\x03\x87abc", "\x03\x87abcde", "\x03\x0d", "\x09"} {
+			b := roomy(text)
+			tether.Read(modulo, b)
+			checkRoom(t, b, text)
+		}
+	}
+}
+
+func TestP1InfosAreNotKept(t *testing.T) {
+	for _, modulo := range modulos {
+		for _, f := range []api.Frame{
+			{Address: 3, Kind: api.I, NS: 5, NR: 2, Poll: true, Info: roomy("a message")},
+			{Address: 1, Kind: api.I, Info: roomy(string(bytes.Repeat([]byte("x"), 32)))},
+			{Address: 1, Kind: api.FRMR, Info: plainInfo(modulo, api.FRMR)},
+		} {
+			info := string(f.Info)
+			b, e := tether.Write(modulo, f)
+			if e != api.OK {
+				t.Fatalf("P5: Write(%d, %v): error %d", modulo, f, e)
+			}
+			text := string(b)
+			spoilBytes(f.Info)
+			if string(b) != text {
+				t.Errorf("P1: what Write gave changed with the info: %q, was %q", b, text)
+			}
+			read, _ := tether.Read(modulo, b)
+			spoilBytes(b)
+			if string(read.Info) != info {
+				t.Errorf("P1: what Read gave changed with the bytes: %q, was %q", read.Info, info)
+			}
+		}
+	}
+}
+
+func TestP1InfosAndFramesAreNewMemory(t *testing.T) {
+	for _, modulo := range modulos {
+		for _, text := range []string{"", "a", "a message", string(bytes.Repeat([]byte("x"), 32))} {
+			f := api.Frame{Address: 3, Kind: api.I, NS: 5, Info: roomy(text)}
+			first, _ := tether.Write(modulo, f)
+			second, _ := tether.Write(modulo, f)
+			want := string(second)
+			spoilBytes(first)
+			checkRoom(t, f.Info, text)
+			if string(second) != want {
+				t.Errorf("P1: two answers of Write share memory: %q, was %q", second, want)
+			}
+			b := roomy(want)
+			one, _ := tether.Read(modulo, b)
+			other, _ := tether.Read(modulo, b)
+			spoilBytes(one.Info)
+			checkRoom(t, b, want)
+			if string(other.Info) != text {
+				t.Errorf("P1: two answers of Read share memory: %q, was %q", other.Info, text)
+			}
+			// Nothing of the answers is used again.
+			if again, _ := tether.Write(modulo, f); string(again) != want {
+				t.Errorf("P1: Write = %q, was %q", again, want)
+			}
+		}
+	}
+}

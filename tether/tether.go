@@ -3,12 +3,6 @@ package tether
 
 import "tether/api"
 
-// Write writes a frame (P5).
-func Write(modulo int, f api.Frame) ([]byte, api.Errno) { return nil, api.OK }
-
-// Read reads a frame (P6).
-func Read(modulo int, b []byte) (api.Frame, api.Errno) { return api.Frame{}, api.OK }
-
 // Station is one end of a line.
 type Station struct{}
 
