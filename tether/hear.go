@@ -82,6 +82,70 @@ func (s *Station) hearUp(f api.Frame) {
 	case api.UA, api.FRMR:
 		s.tell(api.Reset)
 		s.call()
+	case api.I, api.RR, api.RNR, api.REJ:
+		s.hearNumbered(f)
+	}
+}
+
+func (s *Station) hearNumbered(f api.Frame) {
+	if !s.isGood(f.NR) {
+		s.fallApart(f)
+		return
+	}
+	s.acknowledge(f.NR)
+	if f.Kind == api.I {
+		s.hearMessage(f)
+	} else {
+		s.hearReadiness(f)
+	}
+	s.pump()
+}
+
+// fallApart is for a frame that acknowledges what was not sent, or was acknowledged already.
+func (s *Station) fallApart(f api.Frame) {
+	s.startOver()
+	s.state = api.Broken
+	s.report(s.isCommand(f) && f.Poll)
+	s.tell(api.Reset)
+}
+
+// hearReadiness is for RR, RNR and REJ, when their number was good.
+func (s *Station) hearReadiness(f api.Frame) {
+	s.peerBusy = f.Kind == api.RNR
+	if f.Kind == api.REJ {
+		s.vs = f.NR
+	}
+	switch {
+	case !f.Poll:
+	case s.isCommand(f):
+		s.answer(true)
+	case s.polling:
+		s.endPolling(f.NR)
+	}
+}
+
+// endPolling takes VS back, so that what the answer to a poll does not acknowledge goes out once more.
+func (s *Station) endPolling(nr int) {
+	s.polling = false
+	s.vs = nr
+	s.timer = 0
+}
+
+// hearMessage is for I, when its NR was good.
+func (s *Station) hearMessage(f api.Frame) {
+	switch {
+	case s.isHeldUp():
+		s.answer(f.Poll)
+	case f.NS == s.vr:
+		s.vr = s.following(s.vr)
+		s.came = append(s.came, f.Info)
+		s.rejected = false
+		s.answer(f.Poll)
+	case !s.rejected:
+		s.rejected = true
+		s.sendResponse(api.Frame{Kind: api.REJ, Poll: f.Poll, NR: s.vr})
+	case f.Poll:
+		s.answer(true)
 	}
 }
 

@@ -266,3 +266,114 @@ func TestP1InfosAndFramesAreNewMemory(t *testing.T) {
 		}
 	}
 }
+
+func TestP1InfosSentAreTheCallers(t *testing.T) {
+	for _, modulo := range modulos {
+		p := up(t, "P1: infos that are sent", config(modulo, 1, 5, 4, 2, ours))
+		whole := roomy("onetwothree")
+		for _, info := range [][]byte{whole[:3], whole[3:6], whole[6:]} {
+			checkErrno(t, "P9: Send", p.s.Send(info), api.OK)
+		}
+		checkErrno(t, "P9: Send of all", p.s.Send(whole[:33]), api.ErrArg)
+		checkRoom(t, whole, "onetwothree")
+		spoilBytes(whole)
+		p.sent("command I 0 0 one")
+		p.hears("response REJ 0", "response RR 1", "response REJ 2")
+		p.sent("command I 0 0 one", "command I 1 0 two", "command I 2 0 three")
+	}
+}
+
+func TestP1FullQueueLeavesInfosAsTheyAre(t *testing.T) {
+	p := up(t, "P1", small(8))
+	for range api.MaxQueue {
+		p.sends("x")
+	}
+	info := roomy("info")
+	checkErrno(t, "P9: Send", p.s.Send(info), api.ErrFull)
+	checkRoom(t, info, "info")
+	down := mustNew(t, small(8))
+	checkErrno(t, "P9: Send", down.Send(info), api.ErrState)
+	checkRoom(t, info, "info")
+}
+
+// What goes out once more does not share memory with what went out.
+func TestP1FramesSentOnceMoreAreNewMemory(t *testing.T) {
+	p := up(t, "P1", small(8))
+	p.sends("one", "two", "three")
+	for range 3 {
+		first, _ := p.s.Out()
+		p.hears("response REJ 0")
+		spoilFrames(first)
+		second, _ := p.s.Out()
+		p.hears("response REJ 0", "command REJ! 0")
+		if len(second) != 3 || string(second[0][2:]) != "one" || string(second[1][2:]) != "two" || string(second[2][2:]) != "three" {
+			t.Errorf("P1: Out() = %q", second)
+		}
+		for n, f := range second {
+			spoilBytes(f)
+			if n < 2 && second[n+1][0] != theirs {
+				t.Errorf("P1: frames %d and %d of one answer share memory", n, n+1)
+			}
+		}
+		spoilFrames(second)
+		p.sent("command I 0 0 one", "command I 1 0 two", "command I 2 0 three", "response RR! 0", "command I 0 0 one", "command I 1 0 two", "command I 2 0 three")
+		p.hears("response REJ 0")
+	}
+}
+
+func TestP1MessagesHeardAreNotKept(t *testing.T) {
+	for _, modulo := range modulos {
+		p := up(t, "P1: messages that are heard", config(modulo, 3, 5, 4, 3, ours))
+		b := roomy("")
+		for n, info := range []string{"one", "", "three"} {
+			frame := string(frameOf(t, modulo, theirs, "command I "+string(rune('0'+n))+" 0 "+info))
+			b = append(b[:0], frame...)
+			clear(b[len(b):cap(b)])
+			hear(t, p.s, b)
+			if string(b) != frame || slices.ContainsFunc(b[len(b):cap(b)], func(x byte) bool { return x != 0 }) {
+				t.Errorf("P1: Hear wrote into its frame: %q, was %q", b[:cap(b)], frame)
+			}
+			spoilBytes(b)
+		}
+		p.takes("one", "", "three")
+	}
+}
+
+func TestP1TakenIsNewMemory(t *testing.T) {
+	p := up(t, "P1", config(8, 3, 5, 4, 3, ours))
+	p.hears("command I 0 0 one", "command I 1 0 two", "command I 2 0 three")
+	first, _ := p.s.Taken()
+	p.hears("command I 3 0 four", "command I 4 0 five")
+	for n, m := range first {
+		spoilBytes(m)
+		if n == 0 && string(first[1]) != "two" || n == 1 && string(first[2]) != "three" {
+			t.Errorf("P1: two messages of one answer share memory: %q", first)
+		}
+	}
+	spoilFrames(first)
+	second, _ := p.s.Taken()
+	p.hears("command I 5 0 six", "command I 6 0 seven", "command I 7 0 eight")
+	third, _ := p.s.Taken()
+	spoilFrames(third)
+	if len(second) != 2 || string(second[0]) != "four" || string(second[1]) != "five" {
+		t.Errorf("P1: Taken() = %q, want four and five", second)
+	}
+	p.hears("command I 0 0 nine")
+	p.takes("nine")
+}
+
+// With an error nothing is changed, and nothing is told.
+func TestP1ErrorsOfMessagesChangeNothing(t *testing.T) {
+	p := laden(t, "P1")
+	view := p.view()
+	for _, b := range [][]byte{nil, {3}, {9, 0}, {3, 13}, {3, 17, 0}, append([]byte{3, 4}, make([]byte, 33)...)} {
+		_, want := tether.Read(8, b)
+		checkErrno(t, "P10: Hear", p.s.Hear(b), want)
+	}
+	checkErrno(t, "P9: Send", p.s.Send(make([]byte, 33)), api.ErrArg)
+	checkErrno(t, "P8: Connect", p.s.Connect(), api.ErrState)
+	p.is(view)
+	p.sent()
+	p.told()
+	p.takes("a", "b")
+}

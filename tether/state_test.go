@@ -3,7 +3,6 @@ package tether
 import (
 	"bytes"
 	"fmt"
-	"math/rand"
 	"slices"
 	"strings"
 	"testing"
@@ -11,7 +10,7 @@ import (
 	"tether/api"
 )
 
-// These tests are of the package itself: no call leads to Broken yet, nor to numbers, messages and a timer of a station that is Up.
+// These tests are of the package itself: they give a station something of everything in each state, more than calls lead to, so that it shows what is forgotten and what stays.
 
 var stateNames = []string{api.Down: "Down", api.Calling: "Calling", api.Up: "Up", api.Leaving: "Leaving", api.Broken: "Broken"}
 
@@ -92,9 +91,9 @@ func full(t *testing.T, c api.Config, state int) *Station {
 	t.Helper()
 	s := newStation(t, c)
 	s.state = state
-	s.vs, s.va, s.vr = 3, 2, 5
+	s.vs, s.va, s.vr, s.vm = 3, 2, 5, 4
 	s.timer, s.tries = 4, 2
-	s.polling, s.peerBusy, s.busy = true, true, true
+	s.polling, s.peerBusy, s.busy, s.rejected = true, true, true, true
 	s.queue = [][]byte{[]byte("one"), []byte("two"), []byte("three")}
 	s.came = [][]byte{[]byte("four"), []byte("five")}
 	return s
@@ -208,7 +207,7 @@ func TestP10P11HeardInEachState(t *testing.T) {
 		eachConfig(func(c api.Config) {
 			eachFrame(c.Modulo, func(f api.Frame) {
 				if state == api.Up && named(numbered, f.Kind) {
-					return
+					return // these hang on numbers
 				}
 				what := fmt.Sprintf("%s of %+v hears %s %+v", stateNames[state], c, kindNames[f.Kind], f)
 				s := full(t, c, state)
@@ -229,6 +228,9 @@ func TestP10P11HeardInEachState(t *testing.T) {
 					t.Errorf("%s: error %d", what, e)
 				}
 				check(t, what, s, sent, eventsOf(r), view)
+				if forgotten := s.vm == 0 && !s.rejected; forgotten != r.over {
+					t.Errorf("%s: VM %d, rejected %v", what, s.vm, s.rejected)
+				}
 			})
 		})
 	}
@@ -414,119 +416,4 @@ func wrongFrames(modulo int) [][]byte {
 		return append(wrong, []byte{3, 111}, []byte{3, 127}, []byte{3, 47, 0}, []byte{1, 135, 0, 0, 0, 0, 0}, []byte{3, 17, 0}, append([]byte{3, 0}, make([]byte, 33)...))
 	}
 	return append(wrong, []byte{3, 47}, []byte{3, 63}, []byte{3, 111, 0}, []byte{1, 135, 0, 0, 0}, []byte{3, 0}, []byte{3, 1}, []byte{3, 1, 1, 0}, append([]byte{3, 0, 0}, make([]byte, 33)...))
-}
-
-// model: a station by the words of the document, as far as it calls and leaves.
-type model struct {
-	c                   api.Config
-	state, timer, tries int
-	sent                [][]byte
-	events              []int
-}
-
-func (m *model) ask(t *testing.T, state, kind int) {
-	m.state, m.timer, m.tries = state, m.c.Timer, 1
-	m.sent = append(m.sent, command(t, m.c, kind, 0))
-}
-
-func (m *model) connect(t *testing.T) api.Errno {
-	if m.state != api.Down && m.state != api.Broken {
-		return api.ErrState
-	}
-	m.ask(t, api.Calling, api.SABM)
-	return api.OK
-}
-
-func (m *model) disconnect(t *testing.T) api.Errno {
-	if m.state == api.Down || m.state == api.Leaving {
-		return api.ErrState
-	}
-	m.ask(t, api.Leaving, api.DISC)
-	return api.OK
-}
-
-func (m *model) hear(t *testing.T, f api.Frame) {
-	r := ruleOf(m.state, m.c.Address, f)
-	if r.sent != 0 {
-		m.sent = append(m.sent, response(t, m.c, r.sent, f.Poll))
-	}
-	m.events = append(m.events, eventsOf(r)...)
-	if r.over {
-		m.state, m.timer, m.tries = r.then, 0, 0
-	}
-	if r.over && r.then == api.Calling {
-		m.ask(t, api.Calling, api.SABM)
-	}
-}
-
-func (m *model) tick(t *testing.T) {
-	if m.timer == 0 {
-		return
-	}
-	m.timer--
-	if m.timer > 0 {
-		return
-	}
-	if m.tries == m.c.Tries {
-		m.events = append(m.events, api.Failed)
-		m.state, m.tries = api.Down, 0
-		return
-	}
-	m.tries++
-	m.timer = m.c.Timer
-	m.sent = append(m.sent, command(t, m.c, map[int]int{api.Calling: api.SABM, api.Leaving: api.DISC}[m.state], 0))
-}
-
-// step does one thing, which a number chooses, to a station and to its model.
-func step(t *testing.T, s *Station, m *model, frames []api.Frame, n int) {
-	t.Helper()
-	switch {
-	case n < 2:
-		checkError(t, "P8: Connect", s.Connect(), m.connect(t))
-	case n < 4:
-		checkError(t, "P8: Disconnect", s.Disconnect(), m.disconnect(t))
-	case n < 30:
-		checkError(t, "P14: Tick", s.Tick(), api.OK)
-		m.tick(t)
-	case n < 50:
-		f := frames[n%len(frames)]
-		if m.state == api.Up && named(numbered, f.Kind) {
-			return
-		}
-		checkError(t, "P10: Hear", s.Hear(wire(t, m.c.Modulo, f)), api.OK)
-		m.hear(t, f)
-	case n < 52:
-		check(t, "P8 to P15", s, m.sent, m.events, api.View{State: m.state, Timer: m.timer, Tries: m.tries})
-		m.sent, m.events = nil, nil
-	default:
-		if got, want := viewOf(t, s), (api.View{State: m.state, Timer: m.timer, Tries: m.tries}); got != want {
-			t.Errorf("P15: View() = %+v, want %+v", got, want)
-		}
-	}
-}
-
-func TestP1StationsByTurns(t *testing.T) {
-	source := rand.New(rand.NewSource(8))
-	for range 50 {
-		var stations []*Station
-		var models []*model
-		eachConfig(func(c api.Config) {
-			c.Timer, c.Tries = 1+source.Intn(4), 1+source.Intn(3)
-			stations = append(stations, newStation(t, c))
-			models = append(models, &model{c: c})
-		})
-		frames := map[int][]api.Frame{}
-		for _, modulo := range []int{8, 128} {
-			eachFrame(modulo, func(f api.Frame) { frames[modulo] = append(frames[modulo], f) })
-		}
-		for range 2000 {
-			i := source.Intn(len(stations))
-			list := frames[models[i].c.Modulo]
-			source.Shuffle(len(list), func(a, b int) { list[a], list[b] = list[b], list[a] })
-			step(t, stations[i], models[i], list, source.Intn(54))
-			if t.Failed() {
-				return
-			}
-		}
-	}
 }

@@ -16,10 +16,11 @@ type Station struct {
 
 // talk: what a station forgets when it starts over.
 type talk struct {
-	vs, va, vr        int
-	queue             [][]byte
+	vs, va, vr, vm    int
+	queue             [][]byte // the first has the number va
 	timer, tries      int
 	polling, peerBusy bool
+	rejected          bool
 }
 
 // New makes a station (P7).
@@ -177,16 +178,6 @@ func (s *Station) runOut() {
 		s.sendCommand(api.Frame{Kind: s.readiness(), Poll: true, NR: s.vr})
 	}
 }
-
-// readiness tells the kind of frame that says whether messages may come.
-func (s *Station) readiness() int {
-	if s.isHeldUp() {
-		return api.RNR
-	}
-	return api.RR
-}
-
-func (s *Station) isHeldUp() bool { return s.busy || len(s.came) >= s.config.Room }
 
 func (s *Station) sendCommand(f api.Frame) {
 	f.Address = firstAddress + otherAddress - s.config.Address

@@ -99,8 +99,11 @@ func stationIn(t *testing.T, state int) *tether.Station {
 	if state != api.Down {
 		checkErrno(t, "P8: Connect", s.Connect(), api.OK)
 	}
-	if state == api.Up || state == api.Leaving {
+	if state == api.Up || state == api.Leaving || state == api.Broken {
 		hear(t, s, []byte{1, 115})
+	}
+	if state == api.Broken {
+		hear(t, s, []byte{1, 33})
 	}
 	if state == api.Leaving {
 		checkErrno(t, "P8: Disconnect", s.Disconnect(), api.OK)

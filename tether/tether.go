@@ -1,13 +1,26 @@
 // Package tether: two stations on a line: see DOC.md.
 package tether
 
-import "tether/api"
+import (
+	"bytes"
+
+	"tether/api"
+)
 
 // Send sends a message (P9).
 func (s *Station) Send(info []byte) api.Errno {
-	if s.isClosed() {
+	switch {
+	case s.isClosed():
 		return api.ErrDone
+	case s.state != api.Up:
+		return api.ErrState
+	case len(info) > api.MaxInfo:
+		return api.ErrArg
+	case len(s.queue) >= api.MaxQueue:
+		return api.ErrFull
 	}
+	s.queue = append(s.queue, bytes.Clone(info))
+	s.pump()
 	return api.OK
 }
 
@@ -16,6 +29,9 @@ func (s *Station) Busy(on bool) api.Errno {
 	if s.isClosed() {
 		return api.ErrDone
 	}
+	wasHeldUp := s.isHeldUp()
+	s.busy = on
+	s.answerChange(wasHeldUp)
 	return api.OK
 }
 
@@ -24,5 +40,9 @@ func (s *Station) Taken() ([][]byte, api.Errno) {
 	if s.isClosed() {
 		return nil, api.ErrDone
 	}
-	return nil, api.OK
+	wasHeldUp := s.isHeldUp()
+	messages := s.came
+	s.came = nil
+	s.answerChange(wasHeldUp)
+	return messages, api.OK
 }
